@@ -62,9 +62,8 @@ func places(l []api.Entry) map[string]place {
 		switch x.Kind {
 		case api.KindDir:
 			p.folder = true
-		case api.KindHard:
-		default:
-			p.shared = true
+		case api.KindFile, api.KindLink, api.KindBlock, api.KindChar:
+			p.shared = true // these by name: a number that is no kind at all is not one of the others
 		}
 		where[x.Path] = p
 	}

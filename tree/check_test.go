@@ -181,8 +181,27 @@ func TestCheckAnyOfThosePaths(t *testing.T) {
 	check(t, "of a folder, then a file", []api.Entry{further("x", "a"), folder("a"), file("a")}, 2, api.ErrTwice)
 	check(t, "of a file, then a folder", []api.Entry{further("x", "a"), file("a"), folder("a")}, 2, api.ErrTwice)
 	check(t, "of folders", []api.Entry{further("x", "a"), folder("a"), further("a", "a")}, 0, api.ErrNone)
-	check(t, "of what has no kind", []api.Entry{further("x", "a"), {Path: "a", Kind: 7}}, 1, api.ErrKind)
 	check(t, "of a root that is none", []api.Entry{further("x", ""), file("")}, 1, api.ErrForm)
+}
+
+// What has none of the six kinds has no kind: no further name leads to it.
+func TestCheckFurtherOfNoKind(t *testing.T) {
+	for _, kind := range []int{0, 7, -1, 8, 100, 1 << 32, 1<<32 + 1, math.MinInt, math.MaxInt} {
+		x := api.Entry{Path: "a", Kind: kind}
+		what := fmt.Sprint("of kind ", kind)
+		check(t, what, []api.Entry{further("x", "a"), x}, 0, api.ErrNone)
+		check(t, what+", behind others", []api.Entry{folder("p"), file("p/f"), further("p/x", "a"), file("b"), x}, 2, api.ErrNone)
+		check(t, what+", ahead of it", []api.Entry{x, further("x", "a")}, 0, api.ErrKind)
+		check(t, what+", behind one of a file", []api.Entry{further("x", "f"), x, further("y", "a"), file("f")}, 1, api.ErrKind)
+		check(t, what+", and a folder", []api.Entry{further("x", "a"), x, folder("a")}, 0, api.ErrNone)
+		check(t, what+", and a further name", []api.Entry{further("x", "a"), x, further("a", "f"), file("f")}, 0, api.ErrNone)
+		for _, y := range plain("a") {
+			if y.Kind != api.KindDir {
+				check(t, fmt.Sprint(what, ", and one of kind ", y.Kind), []api.Entry{further("x", "a"), x, y}, 1, api.ErrKind)
+				check(t, fmt.Sprint(what, " behind one of kind ", y.Kind), []api.Entry{further("x", "a"), y, x}, 2, api.ErrKind)
+			}
+		}
+	}
 }
 
 // spoilt is an entry of each kind but KindHard that one thing was done to.

@@ -78,7 +78,7 @@ func faultByHand(l []api.Entry, i int) api.Errno {
 	}
 	if x.Kind == api.KindHard {
 		leads := func(y api.Entry) bool {
-			return y.Path == x.Target && y.Kind != api.KindDir && y.Kind != api.KindHard
+			return y.Path == x.Target && slices.Contains([]int{1, 3, 4, 5}, y.Kind)
 		}
 		if !slices.ContainsFunc(l, leads) {
 			return api.ErrNone
